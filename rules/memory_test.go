@@ -1,0 +1,123 @@
+// Package rules holds the layers to the document's rules R2, R4 and R6, which are the same for all of them. It has tests alone.
+package rules
+
+import (
+	"slices"
+	"testing"
+
+	"volute/api"
+)
+
+// room is how many elements stand behind the length of each list that is handed in here.
+const room = 16
+
+// roomy is a copy of lists, each with room behind its length that is filled with x.
+func roomy[T any](lists [][]T, x T) [][]T {
+	out := make([][]T, len(lists))
+	for i, l := range lists {
+		out[i] = append(slices.Clone(l), slices.Repeat([]T{x}, room)...)[:len(l)]
+	}
+	return out
+}
+
+func whole[T any](l []T) []T { return l[:cap(l)] }
+
+// wholes is a copy of lists, with what stands behind their lengths.
+func wholes[T any](lists [][]T) [][]T {
+	out := make([][]T, len(lists))
+	for i, l := range lists {
+		out[i] = slices.Clone(whole(l))
+	}
+	return out
+}
+
+func copies[T any](lists [][]T) [][]T {
+	out := make([][]T, len(lists))
+	for i, l := range lists {
+		out[i] = slices.Clone(l)
+	}
+	return out
+}
+
+func equal[T comparable](a, b [][]T) bool { return slices.EqualFunc(a, b, slices.Equal) }
+
+// spoil writes all over a list, its spare room too.
+func spoil[T byte | int](l []T) {
+	for i := range whole(l) {
+		whole(l)[i] ^= 0x5a
+	}
+}
+
+// lists is a call that takes and answers lists.
+type lists[In, Out any] func([][]In) ([][]Out, api.Errno)
+
+func one[In, Out any](call func([]In) ([]Out, api.Errno)) lists[In, Out] {
+	return func(in [][]In) ([][]Out, api.Errno) {
+		out, e := call(in[0])
+		return [][]Out{out}, e
+	}
+}
+
+func two[In, Out any](call func(a, b []In) ([]Out, api.Errno)) lists[In, Out] {
+	return func(in [][]In) ([][]Out, api.Errno) {
+		out, e := call(in[0], in[1])
+		return [][]Out{out}, e
+	}
+}
+
+// checkLists holds call to R2, R4 and R6: what is handed in stays and is not handed out, what lies behind its length is not read, each list that is answered is new memory, and beside an error all of them are empty.
+func checkLists[In, Out byte | int](t *testing.T, name string, call lists[In, Out], in ...[]In) {
+	t.Helper()
+	given := roomy(in, 1)
+	was := wholes(given)
+	first, e := call(given)
+	want := copies(first)
+	second, _ := call(given)
+	other, f := call(roomy(in, 0))
+	if e != f || !equal(want, other) {
+		t.Errorf("%s: the answer hangs on what lies behind the length", name)
+	}
+	if e != api.OK && len(slices.Concat(want...)) != 0 {
+		t.Errorf("%s: a list beside an error", name)
+	}
+	if !equal(wholes(given), was) {
+		t.Errorf("%s: what was handed in is changed", name)
+	}
+	for i, l := range first {
+		spoil(l)
+		if !equal(first[i+1:], want[i+1:]) {
+			t.Errorf("%s: two lists of one answer share memory", name)
+		}
+	}
+	if !equal(wholes(given), was) {
+		t.Errorf("%s: the answer shares memory with what was handed in", name)
+	}
+	third, _ := call(given)
+	if !equal(second, want) || !equal(third, want) {
+		t.Errorf("%s: one answer is touched by another one", name)
+	}
+	for _, l := range given {
+		spoil(l)
+	}
+	if !equal(second, want) {
+		t.Errorf("%s: the answer changes with what was handed in", name)
+	}
+	checkNothing(t, name, call, in)
+}
+
+// checkNothing holds call to R2's last words: nil and an empty list mean the same.
+func checkNothing[In any, Out comparable](t *testing.T, name string, call lists[In, Out], in [][]In) {
+	t.Helper()
+	for i, l := range in {
+		if len(l) != 0 {
+			continue
+		}
+		bare, empty := slices.Clone(in), slices.Clone(in)
+		bare[i], empty[i] = nil, []In{}
+		a, e := call(bare)
+		b, f := call(empty)
+		if e != f || !equal(a, b) {
+			t.Errorf("%s: nil and an empty list differ", name)
+		}
+	}
+}
