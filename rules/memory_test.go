@@ -65,6 +65,22 @@ func two[In, Out any](call func(a, b []In) ([]Out, api.Errno)) lists[In, Out] {
 	}
 }
 
+// table is a call that takes nothing and answers a list.
+func table[Out any](call func() []Out) lists[byte, Out] {
+	return func([][]byte) ([][]Out, api.Errno) { return [][]Out{call()}, api.OK }
+}
+
+// number is a call that takes a list and answers a number, told as a list: without an element, if it is 0, so that beside an error nothing else is let through.
+func number[In any](call func([]In) (int, api.Errno)) lists[In, int] {
+	return one(func(in []In) ([]int, api.Errno) {
+		n, e := call(in)
+		if n == 0 {
+			return nil, e
+		}
+		return []int{n}, e
+	})
+}
+
 // checkLists holds call to R2, R4 and R6: what is handed in stays and is not handed out, what lies behind its length is not read, each list that is answered is new memory, and beside an error all of them are empty.
 func checkLists[In, Out byte | int](t *testing.T, name string, call lists[In, Out], in ...[]In) {
 	t.Helper()
@@ -73,6 +89,7 @@ func checkLists[In, Out byte | int](t *testing.T, name string, call lists[In, Ou
 	first, e := call(given)
 	want := copies(first)
 	second, _ := call(given)
+	kept := wholes(second)
 	other, f := call(roomy(in, 0))
 	if e != f || !equal(want, other) {
 		t.Errorf("%s: the answer hangs on what lies behind the length", name)
@@ -93,7 +110,7 @@ func checkLists[In, Out byte | int](t *testing.T, name string, call lists[In, Ou
 		t.Errorf("%s: the answer shares memory with what was handed in", name)
 	}
 	third, _ := call(given)
-	if !equal(second, want) || !equal(third, want) {
+	if !equal(second, want) || !equal(third, want) || !equal(wholes(second), kept) {
 		t.Errorf("%s: one answer is touched by another one", name)
 	}
 	for _, l := range given {
