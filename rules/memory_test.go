@@ -42,7 +42,7 @@ func copies[T any](lists [][]T) [][]T {
 func equal[T comparable](a, b [][]T) bool { return slices.EqualFunc(a, b, slices.Equal) }
 
 // spoil writes all over a list, its spare room too.
-func spoil[T byte | int](l []T) {
+func spoil[T byte | int | uint32](l []T) {
 	for i := range whole(l) {
 		whole(l)[i] ^= 0x5a
 	}
@@ -82,7 +82,7 @@ func number[In any](call func([]In) (int, api.Errno)) lists[In, int] {
 }
 
 // checkLists holds call to R2, R4 and R6: what is handed in stays and is not handed out, what lies behind its length is not read, each list that is answered is new memory, and beside an error all of them are empty.
-func checkLists[In, Out byte | int](t *testing.T, name string, call lists[In, Out], in ...[]In) {
+func checkLists[In, Out byte | int | uint32](t *testing.T, name string, call lists[In, Out], in ...[]In) {
 	t.Helper()
 	given := roomy(in, 1)
 	was := wholes(given)
