@@ -11,8 +11,30 @@ import (
 // room is how many elements stand behind the length of each list that is handed in here.
 const room = 16
 
-// roomy is a copy of lists, each with room behind its length that is filled with x.
-func roomy[T any](lists [][]T, x T) [][]T {
+// element is what the lists that are handed in and answered here have.
+type element interface {
+	byte | int | uint32 | api.Sym
+}
+
+// turn makes another element of x, unless n is 0.
+func turn[T element](x *T, n int) {
+	switch x := any(x).(type) {
+	case *byte:
+		*x ^= byte(n)
+	case *int:
+		*x ^= n
+	case *uint32:
+		*x ^= uint32(n)
+	case *api.Sym:
+		x.At ^= n
+		x.Value ^= n
+	}
+}
+
+// roomy is a copy of lists, each with room behind its length that is filled with n.
+func roomy[T element](lists [][]T, n int) [][]T {
+	var x T
+	turn(&x, n)
 	out := make([][]T, len(lists))
 	for i, l := range lists {
 		out[i] = append(slices.Clone(l), slices.Repeat([]T{x}, room)...)[:len(l)]
@@ -42,9 +64,9 @@ func copies[T any](lists [][]T) [][]T {
 func equal[T comparable](a, b [][]T) bool { return slices.EqualFunc(a, b, slices.Equal) }
 
 // spoil writes all over a list, its spare room too.
-func spoil[T byte | int | uint32](l []T) {
+func spoil[T element](l []T) {
 	for i := range whole(l) {
-		whole(l)[i] ^= 0x5a
+		turn(&whole(l)[i], 0x5a)
 	}
 }
 
@@ -82,7 +104,7 @@ func number[In any](call func([]In) (int, api.Errno)) lists[In, int] {
 }
 
 // checkLists holds call to R2, R4 and R6: what is handed in stays and is not handed out, what lies behind its length is not read, each list that is answered is new memory, and beside an error all of them are empty.
-func checkLists[In, Out byte | int | uint32](t *testing.T, name string, call lists[In, Out], in ...[]In) {
+func checkLists[In, Out element](t *testing.T, name string, call lists[In, Out], in ...[]In) {
 	t.Helper()
 	given := roomy(in, 1)
 	was := wholes(given)
