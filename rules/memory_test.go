@@ -103,7 +103,7 @@ func number[In any](call func([]In) (int, api.Errno)) lists[In, int] {
 	})
 }
 
-// checkLists holds call to R2, R4 and R6: what is handed in stays and is not handed out, what lies behind its length is not read, each list that is answered is new memory, and beside an error all of them are empty.
+// checkLists holds call to R2, R4 and R6: what is handed in stays and is not handed out, what lies behind its length is neither read nor handed out, each list that is answered is new memory, and beside an error all of them are empty.
 func checkLists[In, Out element](t *testing.T, name string, call lists[In, Out], in ...[]In) {
 	t.Helper()
 	given := roomy(in, 1)
@@ -113,7 +113,7 @@ func checkLists[In, Out element](t *testing.T, name string, call lists[In, Out],
 	second, _ := call(given)
 	kept := wholes(second)
 	other, f := call(roomy(in, 0))
-	if e != f || !equal(want, other) {
+	if e != f || !equal(want, other) || !equal(kept, wholes(other)) {
 		t.Errorf("%s: the answer hangs on what lies behind the length", name)
 	}
 	if e != api.OK && len(slices.Concat(want...)) != 0 {
