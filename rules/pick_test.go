@@ -1,6 +1,7 @@
 package rules
 
 import (
+	"fmt"
 	"math"
 	"slices"
 	"testing"
@@ -56,41 +57,57 @@ func spoilNodes(l []api.Node) {
 	}
 }
 
-// checkPick holds Pick to R2, R4 and R6, as checkLists does for lists whose elements have no memory of their own.
-func checkPick(t *testing.T, in []api.Node, b int) {
+// handed is what is handed in to a call that answers nodes: how it is made, with n in the room behind it, told, and spoilt.
+type handed[In any] struct {
+	give  func(n int) In
+	told  func(In) []int
+	spoil func(In)
+}
+
+// checkNodes holds call to R2, R4 and R6, as checkLists does for lists whose elements have no memory of their own.
+func checkNodes[In any](t *testing.T, name string, in handed[In], call func(In) ([]api.Node, int, api.Errno)) {
 	t.Helper()
-	given := roomyNodes(in, 1)
-	was := told(whole(given))
-	first, cut, e := pick.Pick(given, b)
+	given := in.give(1)
+	was := in.told(given)
+	first, cut, e := call(given)
 	want := toldShort(first)
-	second, _, _ := pick.Pick(given, b)
+	second, _, _ := call(given)
 	kept := told(whole(second))
-	if other, c, f := pick.Pick(roomyNodes(in, 2), b); !slices.Equal(toldShort(other), want) || !slices.Equal(told(whole(other)), kept) || c != cut || f != e {
-		t.Errorf("%v, %d: the answer hangs on what lies behind a length", in, b)
+	if other, c, f := call(in.give(2)); !slices.Equal(toldShort(other), want) || !slices.Equal(told(whole(other)), kept) || c != cut || f != e {
+		t.Errorf("%s: the answer hangs on what lies behind a length", name)
 	}
 	if e != api.OK && (len(want) != 0 || cut != 0) {
-		t.Errorf("%v, %d: %v, %d beside an error", in, b, first, cut)
+		t.Errorf("%s: %v, %d beside an error", name, first, cut)
 	}
 	for i := range first {
 		behind := toldShort(first[i+1:])
 		spoilNodes(first[i : i+1 : i+1])
 		if !slices.Equal(toldShort(first[i+1:]), behind) {
-			t.Errorf("%v, %d: two Paths of one answer share memory", in, b)
+			t.Errorf("%s: two Paths of one answer share memory", name)
 		}
 	}
 	// What is spoilt twice is as it was: the room alone is left to be spoilt.
 	spoilNodes(whole(first)[len(first):])
-	if !slices.Equal(told(whole(given)), was) {
-		t.Errorf("%v, %d: what was handed in is changed, or shared with the answer", in, b)
+	if !slices.Equal(in.told(given), was) {
+		t.Errorf("%s: what was handed in is changed, or shared with the answer", name)
 	}
-	third, _, _ := pick.Pick(given, b)
+	third, _, _ := call(given)
 	if !slices.Equal(told(whole(second)), kept) || !slices.Equal(toldShort(third), want) {
-		t.Errorf("%v, %d: one answer is touched by another one", in, b)
+		t.Errorf("%s: one answer is touched by another one", name)
 	}
-	spoilNodes(given)
+	in.spoil(given)
 	if !slices.Equal(toldShort(second), want) {
-		t.Errorf("%v, %d: the answer changes with what was handed in", in, b)
+		t.Errorf("%s: the answer changes with what was handed in", name)
 	}
+}
+
+func checkPick(t *testing.T, l []api.Node, b int) {
+	t.Helper()
+	checkNodes(t, fmt.Sprintf("Pick of %v, %d", l, b), handed[[]api.Node]{
+		give:  func(n int) []api.Node { return roomyNodes(l, n) },
+		told:  func(l []api.Node) []int { return told(whole(l)) },
+		spoil: spoilNodes,
+	}, func(l []api.Node) ([]api.Node, int, api.Errno) { return pick.Pick(l, b) })
 }
 
 // scored are n nodes with these Scores, round by round, and Paths of unlike lengths, one of them nil and one empty.
