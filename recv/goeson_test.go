@@ -239,6 +239,22 @@ func TestEveryWindowBehindTake(t *testing.T) { // it goes on: likewise behind a 
 	}
 }
 
+func TestEveryWindowBehindTakeOfNothing(t *testing.T) { // it goes on: likewise behind a Take that accepts nothing, of each of the blocks
+	for _, marks := range marks4() {
+		for n := range 3 {
+			r := had(queued(fresh(plain(), 3), n), marks)
+			for _, r := range []api.Receiver{r, opened(r, 5)} {
+				for i := range r.Hears {
+					next, told := wantTook(t, r, api.Data{Seq: 3 + i, Round: 9, From: 200, Syms: text(5, 1)}, api.OK)
+					if len(told) != 0 || len(next.Queue) > r.Config.Qr || !slices.EqualFunc(next.Queue[:n], r.Queue, bytes.Equal) {
+						t.Fatal(r, next, told)
+					}
+				}
+			}
+		}
+	}
+}
+
 // wantNothingDropped holds next to be r without at most the first message that waits, and with others behind the rest (P23.4).
 func wantNothingDropped(t *testing.T, r, next api.Receiver) {
 	t.Helper()

@@ -265,10 +265,10 @@ func took(t *testing.T, r api.Receiver, d api.Data) (next api.Receiver, had []by
 		}
 		r.Hears[i] = heard
 		if accepted {
-			return goneOn(r), heard.Bytes, api.OK
+			had = heard.Bytes
 		}
 	}
-	return r, nil, api.OK
+	return goneOn(r), had, api.OK
 }
 
 // received is what Receive answers of a right Receiver, by P23.3.

@@ -106,7 +106,7 @@ func TestTakeIsHears(t *testing.T) { // P23.2: of the Hear of that Seq alone, as
 					}
 					want := copyOf(r)
 					want.Hears[i] = heard
-					wantTake(t, r, packetOf(t, d), want, nil, api.OK)
+					wantTake(t, r, packetOf(t, d), goneOn(want), nil, api.OK)
 				}
 			}
 		}
@@ -234,19 +234,72 @@ func TestTakeNextAtItsGreatest(t *testing.T) { // P23.2: behind the block MaxSeq
 	}
 }
 
-func TestTakeNotAcceptedGoesNowhere(t *testing.T) { // P23.2: as the text says it most plainly, who goes on is one that accepted a block, not one that heard anything
-	r := had(opened(fresh(plain(), 3), 5), map[int]int{3: 2, 5: 3}) // as no call leaves it: it could go on
-	after, told := wantTook(t, r, api.Data{Seq: 4, Round: 1, Syms: text(5, 1)}, api.OK)
-	if len(told) != 0 || after.Next != 3 || len(after.Queue) != 0 {
+// ready is a right Receiver that can go on from its first block, as no call leaves it.
+func ready() api.Receiver {
+	return had(opened(fresh(plain(), 3), 5), map[int]int{3: 2, 5: 3})
+}
+
+func TestTakeGoesOnOfAnotherBlock(t *testing.T) { // P23.2: the receiver goes on, whether the packet's block is accepted, was had already, or is not told
+	r := ready()
+	begun := string(r.Join.Text)
+	after, told := wantTook(t, r, api.Data{Seq: 4, Round: 1, Syms: text(5, 1)}, api.OK) // not told
+	wantState(t, after, 4, 8, false, "", begun)
+	if len(told) != 0 || len(after.Hears[0].Pile.Syms) != 5 || !after.Hears[1].Done {
 		t.Error(after, told)
 	}
-	after, told = wantTook(t, r, api.Data{Seq: 3, Round: 1, Syms: text(5, 1)}, api.OK)
-	if len(told) != 0 || !same(after, r) {
+	after, told = wantTook(t, r, api.Data{Seq: 5, Round: 1, Syms: text(5, 1)}, api.OK) // had already
+	wantState(t, after, 4, 8, false, "", begun)
+	if len(told) != 0 || !after.Hears[1].Done || len(after.Hears[1].Pile.Syms) != 0 {
 		t.Error(after, told)
 	}
-	after = wantTold(t, r, blockBytes(r.Config, 6, 3, nil)) // another one than the first is accepted: the first is done with
-	if after.Next != 4 || len(after.Queue) != 1 || !after.Hears[1].Done || !after.Hears[2].Done {
-		t.Error(after)
+	after = wantTold(t, r, blockBytes(r.Config, 6, 3, nil)) // accepted
+	wantState(t, after, 4, 8, false, "", begun)
+	after = wantTold(t, r, blockBytes(r.Config, 4, 3, nil)) // accepted, and gone on with; for the block 5 the Queue has no room
+	wantState(t, after, 5, 9, false, "", begun, "")
+}
+
+func TestTakeGoesOnOfItsOwnBlock(t *testing.T) { // P23.2: a packet of the first block, which was had already: it is gone then, and another such packet is old
+	r := ready()
+	d := api.Data{Seq: 3, Round: 1, Syms: text(5, 1)}
+	after, told := wantTook(t, r, d, api.OK)
+	wantState(t, after, 4, 8, false, "", string(r.Join.Text))
+	if len(told) != 0 {
+		t.Error(told)
+	}
+	wantTook(t, after, d, api.ErrOld)
+}
+
+func TestTakeGoesOnOfNothingFresh(t *testing.T) { // P23.2: symbols that were heard already, or that lie behind the last place
+	part, _ := almost(t, plain(), blockBytes(plain(), 4, 0, text(2, 1)))
+	r := changed(ready(), func(r *api.Receiver) { r.Hears[1] = part })
+	for _, d := range []api.Data{
+		{Seq: 4, Round: part.Round, Syms: text(5, 1)},
+		{Seq: 4, Round: part.Round, From: 120, Syms: text(5, 1)},
+		{Seq: 4, Round: part.Round, From: 65535, Syms: text(64, 1)},
+		{Seq: 6, Round: 1, From: 120, Syms: text(5, 1)},
+	} {
+		after, told := wantTook(t, r, d, api.OK)
+		wantState(t, after, 4, 8, false, "", string(r.Join.Text))
+		if len(told) != 0 || !sameHear(after.Hears[0], part) {
+			t.Error(d, after, told)
+		}
+	}
+}
+
+func TestTakeGoesOnFar(t *testing.T) { // P23.2: not accepted, but all of a window is gone on with, as far as the Queue has room
+	c := with(plain(), func(c *api.Config) { c.Qr = 3 })
+	r := had(fresh(c, 3), map[int]int{3: 3, 4: 1, 5: 2, 6: 3})
+	short := []string{string(partOf(c, 3, 3)), string(partOf(c, 4, 1)) + string(partOf(c, 5, 2)), string(partOf(c, 6, 3))}
+	for seq := 3; seq < 7; seq++ {
+		d := api.Data{Seq: seq, Round: 9, Syms: text(5, 1)}
+		after, _ := wantTook(t, r, d, api.OK)
+		wantState(t, after, 7, 10, false, "", short...)
+		after, _ = wantTook(t, changed(r, func(r *api.Receiver) { r.Queue = [][]byte{[]byte("p")} }), d, api.OK)
+		wantState(t, after, 6, 9, false, "", "p", short[0], short[1])
+		full := changed(r, func(r *api.Receiver) { r.Queue = [][]byte{[]byte("p"), []byte("q"), []byte("r")} })
+		if after, told := wantTook(t, full, d, api.OK); !same(after, full) || len(told) != 0 {
+			t.Error(after, told)
+		}
 	}
 }
 
